@@ -2,8 +2,8 @@ package merge
 
 import (
 	"affidavit/api"
+	"affidavit/keys"
 	"affidavit/node"
-	"affidavit/order"
 	"affidavit/pointer"
 )
 
@@ -61,53 +61,17 @@ func (t *together) must(err error) { t.long = t.long || err != nil }
 
 // members puts the object of what comes of each key that one of the three has.
 func (t *together) members(o, x, y node.Ref, way []string) {
-	var keys []string
-	for _, key := range union(keysOf(o), union(keysOf(x), keysOf(y))) {
-		k, _ := key.Text()
-		of, _ := o.Find(k)
-		xf, _ := x.Find(k)
-		yf, _ := y.Find(k)
-		if t.put(of, xf, yf, down(way, k)) {
-			keys = append(keys, k)
+	var there []string
+	for _, key := range keys.Union(o, x, y) {
+		of, _ := o.Find(key)
+		xf, _ := x.Find(key)
+		yf, _ := y.Find(key)
+		if t.put(of, xf, yf, down(way, key)) {
+			there = append(there, key)
 		}
 		if t.long {
 			return
 		}
 	}
-	t.must(t.maker.Object(keys...))
-}
-
-// keysOf are the keys of an object as texts within a tree, rising; of what is none there are none.
-func keysOf(r node.Ref) []node.Ref {
-	m := node.New()
-	for i := range r.Len() {
-		if key, ok := r.Key(i); ok {
-			_ = m.Text(key)
-		}
-	}
-	_ = m.List(m.Len())
-	t, _ := m.Tree()
-	var l []node.Ref
-	for _, key := range t.Root().All() {
-		l = append(l, key)
-	}
-	return l
-}
-
-// union is two rows of texts that rise, as one that rises, each text once.
-func union(a, b []node.Ref) []node.Ref {
-	var l []node.Ref
-	for len(a) > 0 && len(b) > 0 {
-		c := order.Compare(a[0], b[0])
-		if c <= 0 {
-			l = append(l, a[0])
-			a = a[1:]
-		} else {
-			l = append(l, b[0])
-		}
-		if c >= 0 {
-			b = b[1:]
-		}
-	}
-	return append(append(l, a...), b...)
+	t.must(t.maker.Object(there...))
 }
