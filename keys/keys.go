@@ -1,10 +1,18 @@
-// Package keys puts the keys of objects together, rising; layers that go through several objects at once share it.
+// Package keys puts texts in unit order, and the keys of several objects together; layers that tell texts rising share it.
 package keys
 
 import (
+	"slices"
+
 	"affidavit/node"
 	"affidavit/utf"
 )
+
+// Ahead tells whether a stands ahead of b.
+func Ahead(a, b string) bool { return utf.Compare(a, b) < 0 }
+
+// Sorted is texts, rising, in new memory.
+func Sorted(texts []string) []string { return slices.SortedFunc(slices.Values(texts), utf.Compare) }
 
 // Union is the keys that one of some objects has, rising, each once. What is no object has none.
 func Union(objects ...node.Ref) []string {

@@ -30,3 +30,16 @@ func TestUnion(t *testing.T) {
 		}
 	}
 }
+
+func TestSortedAndAhead(t *testing.T) {
+	l := []string{"\uff61", "b", "", "😀", "a", "b"}
+	if got := keys.Sorted(l); !slices.Equal(got, []string{"", "a", "b", "b", "😀", "\uff61"}) || l[0] != "\uff61" {
+		t.Errorf("Sorted: %q", got)
+	}
+	if len(keys.Sorted(nil)) != 0 {
+		t.Error("Sorted of nothing")
+	}
+	if !keys.Ahead("😀", "\uff61") || keys.Ahead("a", "a") || keys.Ahead("b", "a") || !keys.Ahead("a", "ab") {
+		t.Error("Ahead")
+	}
+}
