@@ -403,6 +403,16 @@ func TestMemory(t *testing.T) {
 			break
 		}
 	}
+	var told []error
+	for _, e := range fault.Each(third) { // what is written into an error skips nothing
+		if a, ok := e.(api.All); ok {
+			clear(a)
+		}
+		told = append(told, e)
+	}
+	if len(told) != 6 || told[1] != (api.Spot{Err: 7, At: 3}) || told[5] != api.Errno(8) {
+		t.Errorf("Each, written into: %v", told)
+	}
 	a, _ := fault.Build(third)
 	b, _ := fault.Build(third)
 	a.(api.All)[0] = nil

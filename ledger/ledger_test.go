@@ -508,6 +508,25 @@ func TestFull(t *testing.T) {
 	}
 }
 
+func TestAsManyAsMayBe(t *testing.T) {
+	l := made(t, charter())
+	for i := range api.MaxDocs {
+		paper(t, l, fmt.Sprintf(`{"n":%d}`, i), 1)
+	}
+	saved := l.Save()
+	if f, ok := submit(t, l, "{}", 1).(*api.Full); !ok || f.Err != api.ErrFull || !bytes.Equal(l.Save(), saved) {
+		t.Error("one document more than may be")
+	}
+	again, err := ledger.Open(charter(), saved)
+	if err != nil || again.Size() != api.MaxDocs {
+		t.Fatalf("Open: %v", err)
+	}
+	d, _ := digests(t, `{"n":4000}`)
+	if r, err := again.Prove(d); err != nil || r.Entry.Index != 4000 || ledger.Check(r, read(t, `{"n":4000}`), []api.Key{w}) != nil {
+		t.Errorf("Prove: %v", err)
+	}
+}
+
 func TestOpen(t *testing.T) {
 	of := func(parts ...string) string { return row("affidavit ledger", row(parts...)) }
 	at := func(i int) error { return api.Spot{Err: api.ErrLedger, At: i} }
