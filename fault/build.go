@@ -9,7 +9,7 @@ import (
 
 // A laid is an error on the pile, and how deep it is.
 type laid struct {
-	err   error
+	error
 	depth int
 }
 
@@ -30,7 +30,7 @@ func Build(steps []api.Cause) (error, error) {
 	if len(p) != 1 {
 		return nil, api.Spot{Err: api.ErrPile, At: len(steps)}
 	}
-	return p[0].err, nil
+	return p[0].error, nil
 }
 
 // do does a step, or tells why it may not be done.
@@ -72,14 +72,14 @@ func made(step api.Cause, taken pile) (laid, bool) {
 		return laid{(*api.Note)(nil), 1}, true
 	case api.CauseNote:
 		depth := 1
-		if taken[0].err != nil {
+		if taken[0].error != nil {
 			depth += taken[0].depth
 		}
-		return laid{&api.Note{Word: step.Text, Err: taken[0].err}, depth}, true
+		return laid{&api.Note{Word: step.Text, Err: taken[0].error}, depth}, true
 	case api.CauseAll:
 		all, depth := api.All{}, 0
 		for _, l := range taken {
-			all = append(all, l.err)
+			all = append(all, l.error)
 			depth = max(depth, l.depth)
 		}
 		return laid{slices.Clip(all), depth + 1}, true
